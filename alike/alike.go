@@ -16,6 +16,11 @@ func Scoped(a, b api.Scoped) bool {
 		slices.Equal(a.Owners, b.Owners)
 }
 
+// Program tells whether both say the same of their trees: what the names mean and which types there are. Neither the trees nor their texts are asked.
+func Program(a, b api.Program) bool {
+	return Scoped(a.Scoped, b.Scoped) && slices.Equal(a.Types, b.Types)
+}
+
 func funcs(a, b api.Func) bool {
 	return a.Name == b.Name &&
 		a.Node == b.Node &&

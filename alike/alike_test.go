@@ -69,3 +69,26 @@ func TestEmptyLists(t *testing.T) {
 		t.Errorf("nothing, nil or not, is not alike")
 	}
 }
+
+// What two programs say of their trees are the meanings of names, and the types; the trees and the texts may be others.
+func TestProgram(t *testing.T) {
+	one := api.Program{Text: "a", Tree: api.Tree{Nodes: make([]api.Node, 2)}, Scoped: some(), Types: []string{"", "int"}}
+	other := api.Program{Text: "b", Scoped: some(), Types: []string{"", "int"}}
+	if !Program(one, other) || !Program(other, one) || !Program(api.Program{}, api.Program{Types: []string{}}) {
+		t.Fatalf("two programs that say the same are not alike")
+	}
+	for what, change := range map[string]func(p *api.Program){
+		"a type":          func(p *api.Program) { p.Types[1] = "bool" },
+		"a type too few":  func(p *api.Program) { p.Types = p.Types[:1] },
+		"a type too many": func(p *api.Program) { p.Types = append(p.Types, "") },
+		"a slot":          func(p *api.Program) { p.Scoped.Slots[2]++ },
+		"a name":          func(p *api.Program) { p.Scoped.Funcs[0].Name = "g" },
+		"all":             func(p *api.Program) { *p = api.Program{} },
+	} {
+		changed := api.Program{Scoped: some(), Types: []string{"", "int"}}
+		change(&changed)
+		if Program(one, changed) || Program(changed, one) {
+			t.Errorf("%s changed: still alike", what)
+		}
+	}
+}
