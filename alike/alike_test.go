@@ -92,3 +92,53 @@ func TestProgram(t *testing.T) {
 		}
 	}
 }
+
+func someCode() api.Code {
+	return api.Code{
+		Instrs: []api.Instr{{Op: api.InInt, A: 1}, {Op: api.InShow, A: 2, B: 3}},
+		Entrys: []api.Entry{{Name: "f", Start: 0, Params: 1, Sorts: []api.Sort{1, 3}, Result: 2}, {Name: "main", Start: 1}},
+		Texts:  []string{"a", "b"},
+		Main:   1,
+	}
+}
+
+// Anything else in a code makes another one of it.
+func TestCode(t *testing.T) {
+	if !Code(someCode(), someCode()) || !Code(api.Code{}, api.Code{}) {
+		t.Fatalf("a code is not like itself")
+	}
+	for what, change := range map[string]func(c *api.Code){
+		"an instruction":          func(c *api.Code) { c.Instrs[0].Op = api.InBool },
+		"an A":                    func(c *api.Code) { c.Instrs[1].A++ },
+		"a B":                     func(c *api.Code) { c.Instrs[1].B-- },
+		"an instruction too few":  func(c *api.Code) { c.Instrs = c.Instrs[:1] },
+		"an instruction too many": func(c *api.Code) { c.Instrs = append(c.Instrs, api.Instr{}) },
+		"a name":                  func(c *api.Code) { c.Entrys[0].Name = "" },
+		"a start":                 func(c *api.Code) { c.Entrys[1].Start++ },
+		"a number of params":      func(c *api.Code) { c.Entrys[0].Params++ },
+		"a sort":                  func(c *api.Code) { c.Entrys[0].Sorts[1]++ },
+		"a sort too few":          func(c *api.Code) { c.Entrys[0].Sorts = c.Entrys[0].Sorts[:1] },
+		"a sort too many":         func(c *api.Code) { c.Entrys[1].Sorts = make([]api.Sort, 1) },
+		"a result":                func(c *api.Code) { c.Entrys[0].Result = 0 },
+		"a function too few":      func(c *api.Code) { c.Entrys = c.Entrys[:1] },
+		"a function too many":     func(c *api.Code) { c.Entrys = append(c.Entrys, api.Entry{}) },
+		"functions swapped":       func(c *api.Code) { slices.Reverse(c.Entrys) },
+		"a text":                  func(c *api.Code) { c.Texts[1] = "c" },
+		"a text too few":          func(c *api.Code) { c.Texts = c.Texts[:1] },
+		"a text too many":         func(c *api.Code) { c.Texts = append(c.Texts, "") },
+		"main":                    func(c *api.Code) { c.Main = 0 },
+		"all":                     func(c *api.Code) { *c = api.Code{} },
+	} {
+		other := someCode()
+		change(&other)
+		if Code(someCode(), other) || Code(other, someCode()) {
+			t.Errorf("%s changed: still alike", what)
+		}
+	}
+	other := someCode()
+	other.Entrys[1].Sorts = []api.Sort{}
+	empty := api.Code{Instrs: []api.Instr{}, Entrys: []api.Entry{}, Texts: make([]string, 0, 2)}
+	if !Code(someCode(), other) || !Code(other, someCode()) || !Code(empty, api.Code{}) {
+		t.Errorf("lists that are empty, nil or not, are not alike")
+	}
+}
